@@ -75,15 +75,8 @@ func Programmed(c Chip, block int64, p Page) (Chip, int64) {
 	if !ok {
 		return Chip{}, NdWrong
 	}
-	if !s.has(block) || !isRightUsed(p) || s.hasSeq(p.Seq) {
-		return s.chip(), NdForm
-	}
-	next := s.blocks[block].next()
-	if next < 0 {
-		return s.chip(), NdFull
-	}
-	s.blocks[block].pages[next] = p
-	return s.chip(), NdDone
+	s, code := s.programmed(block, p)
+	return s.chip(), code
 }
 
 func Erased(c Chip, block int64) (Chip, int64) {
@@ -91,15 +84,8 @@ func Erased(c Chip, block int64) (Chip, int64) {
 	if !ok {
 		return Chip{}, NdWrong
 	}
-	if !s.has(block) {
-		return s.chip(), NdForm
-	}
-	wear := s.blocks[block].wear
-	if wear == MaxWear {
-		return s.chip(), NdWorn
-	}
-	s.blocks[block] = blockCells{wear: wear + 1}
-	return s.chip(), NdDone
+	s, code := s.erased(block)
+	return s.chip(), code
 }
 
 func FreeOf(c Chip) []int64 {
@@ -107,13 +93,7 @@ func FreeOf(c Chip) []int64 {
 	if !ok {
 		return nil
 	}
-	var free []int64
-	for b := range s.count {
-		if s.blocks[b].free() {
-			free = append(free, b)
-		}
-	}
-	return free
+	return s.freeBlocks()
 }
 
 func within(n, low, high int64) bool {
@@ -164,6 +144,30 @@ func (s chipCells) chip() Chip {
 	return Chip{Blocks: blocks}
 }
 
+func (s chipCells) programmed(block int64, p Page) (chipCells, int64) {
+	if !s.has(block) || !isRightUsed(p) || s.hasSeq(p.Seq) {
+		return s, NdForm
+	}
+	next := s.blocks[block].next()
+	if next < 0 {
+		return s, NdFull
+	}
+	s.blocks[block].pages[next] = p
+	return s, NdDone
+}
+
+func (s chipCells) erased(block int64) (chipCells, int64) {
+	if !s.has(block) {
+		return s, NdForm
+	}
+	wear := s.blocks[block].wear
+	if wear == MaxWear {
+		return s, NdWorn
+	}
+	s.blocks[block] = blockCells{wear: wear + 1}
+	return s, NdDone
+}
+
 // usedPages goes through the pages that are Used, by their places.
 func usedPages(s chipCells) iter.Seq2[int64, Page] {
 	return func(yield func(int64, Page) bool) {
@@ -179,6 +183,16 @@ func usedPages(s chipCells) iter.Seq2[int64, Page] {
 
 func (s chipCells) has(block int64) bool {
 	return within(block, 0, s.count-1)
+}
+
+func (s chipCells) freeBlocks() []int64 {
+	var free []int64
+	for b := range s.count {
+		if s.blocks[b].free() {
+			free = append(free, b)
+		}
+	}
+	return free
 }
 
 func (s chipCells) seqsDiffer() bool {
@@ -203,13 +217,13 @@ func (s chipCells) hasSeq(seq int64) bool {
 	return false
 }
 
-// topSeq is 0 without pages, which is below every right Seq.
-func (s chipCells) topSeq() int64 {
-	top := int64(0)
-	for _, p := range usedPages(s) {
-		top = max(top, p.Seq)
+func (s chipCells) worn() bool {
+	for b := range s.count {
+		if s.blocks[b].wear == MaxWear {
+			return true
+		}
 	}
-	return top
+	return false
 }
 
 func (b blockCells) right() bool {
@@ -244,4 +258,16 @@ func (b blockCells) free() bool {
 
 func (b blockCells) full() bool {
 	return b.next() < 0
+}
+
+func (b blockCells) begun() bool {
+	return b.next() > 0
+}
+
+// room is how many pages more can be programmed.
+func (b blockCells) room() int64 {
+	if b.full() {
+		return 0
+	}
+	return PageCount - b.next()
 }

@@ -77,7 +77,7 @@ func rightCells(f Ftl) (chipCells, bool) {
 	if !ok || !slices.Equal(f.Map, named) {
 		return chipCells{}, false
 	}
-	if !within(f.Seq, s.topSeq()+1, MaxSeq) || !s.has(f.Open) || !s.settledBut(f.Open) {
+	if !within(f.Seq, s.top().seq+1, MaxSeq) || !s.has(f.Open) || !s.settledBut(f.Open) {
 		return chipCells{}, false
 	}
 	return s, true
@@ -90,11 +90,10 @@ func (s chipCells) settledBut(open int64) bool {
 		if b == open {
 			continue
 		}
-		block := s.blocks[b]
-		if !block.free() && !block.full() {
+		if s.blocks[b].begun() {
 			return false
 		}
-		spare = spare || block.free()
+		spare = spare || s.blocks[b].free()
 	}
 	return spare
 }
