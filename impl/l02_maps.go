@@ -59,11 +59,7 @@ func PageAt(f Ftl, log int64) (string, bool) {
 	if !ok || !within(log, 0, RoomFor(s.count)-1) {
 		return "", false
 	}
-	place := f.Map[log]
-	if place == unnamed {
-		return strings.Repeat("\x00", PageSize), true
-	}
-	return s.blocks[place/PageCount].pages[place%PageCount].Data, true
+	return s.dataAt(f.Map[log]), true
 }
 
 // rightCells is false for every member that is not right; where it is true Map
@@ -96,6 +92,18 @@ func (s chipCells) settledBut(open int64) bool {
 		spare = spare || s.blocks[b].free()
 	}
 	return spare
+}
+
+func blankData() string {
+	return strings.Repeat("\x00", PageSize)
+}
+
+// dataAt takes places that a map of this chip names, or unnamed.
+func (s chipCells) dataAt(place int64) string {
+	if place == unnamed {
+		return blankData()
+	}
+	return s.blocks[place/PageCount].pages[place%PageCount].Data
 }
 
 // namedPlaces goes through the places that a map names, log by log.
